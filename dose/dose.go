@@ -4,6 +4,7 @@ package dose
 import (
 	"math"
 
+	"dose/program"
 	"dose/round"
 )
 
@@ -22,6 +23,8 @@ const (
 )
 
 const noNumber uint64 = 0x7ff8000000000000
+
+const maxProgram = 600
 
 // Range is two ends, as the bits of 64-bit floating-point numbers.
 type Range struct{ Lo, Hi uint64 }
@@ -60,10 +63,44 @@ func Decimal(text string, up bool) (uint64, Errno) {
 }
 
 // Print writes a program out in one way (P9 to P11).
-func Print(program string) (string, Errno, int) { return "", OK, 0 }
+func Print(program string) (string, Errno, int) {
+	said, e, place := parse(program)
+	if e != OK {
+		return "", e, place
+	}
+	return said.Text(), OK, 0
+}
 
 // Solve bounds the answers to a program's reads (P12 to P15).
 func Solve(program string) ([]Range, Errno, int) { return nil, OK, 0 }
+
+// parse answers what a program says, or what is wrong with it, and where (P9).
+func parse(text string) (*program.Program, Errno, int) {
+	if len(text) > maxProgram {
+		return nil, ErrLong, 0
+	}
+	said, fault := program.Parse(text)
+	if fault != nil {
+		return nil, errnoOf(fault.Reason), fault.Place
+	}
+	return said, OK, 0
+}
+
+func errnoOf(reason program.Reason) Errno {
+	switch reason {
+	case program.Unit:
+		return ErrUnit
+	case program.None:
+		return ErrNone
+	case program.Zero:
+		return ErrZero
+	case program.Time:
+		return ErrTime
+	case program.Stiff:
+		return ErrStiff
+	}
+	return ErrForm
+}
 
 // bitsOf answers one and the same bits for all that is no number: which ones
 // arithmetic makes differs from machine to machine.

@@ -83,8 +83,17 @@ func TestP1EveryInput(t *testing.T) {
 	}
 	for _, text := range scatteredTexts() {
 		checkDecimal(t, text)
-		Print(text)
+		checkPrint(t, text)
 		Solve(text)
+	}
+	c := chance{state: 2}
+	for range 200 {
+		program := c.program()
+		for at := range len(program) {
+			Print(program[:at])
+			Print(program[at:])
+		}
+		Solve(program)
 	}
 }
 
@@ -102,6 +111,14 @@ func TestP1LongTexts(t *testing.T) {
 	if n := testing.AllocsPerRun(100000, func() { Decimal(great, true) }); n != 0 {
 		t.Errorf("P1: %v allocations for a text that is too long", n)
 	}
+	for _, program := range []string{great, strings.Repeat(" ", 601), strings.Repeat("\xff", 601), "central 0 mg;" + strings.Repeat("#", 588)} {
+		if got, e, place := Print(program); got != "" || e != ErrLong || place != 0 {
+			t.Errorf("P1: a program of %d bytes: %q, %d, %d, want ErrLong", len(program), got, e, place)
+		}
+	}
+	if n := testing.AllocsPerRun(100000, func() { Print(great) }); n != 0 {
+		t.Errorf("P1: %v allocations for a program that is too long", n)
+	}
 }
 
 func TestP1ErrorsLeaveZero(t *testing.T) {
@@ -112,20 +129,28 @@ func TestP1ErrorsLeaveZero(t *testing.T) {
 			}
 		}
 	}
+	for _, program := range []string{"", small + "x", "central 5 mg;", small + "read depot at 1 h in g;", "central 0 L; out 1 /h;", small + "infuse 1 g /h from 1 h to 1 h;", small + "read gone at 9 h in g;", strings.Repeat(" ", 601)} {
+		if got, e, _ := Print(program); e == OK || got != "" {
+			t.Errorf("P1: Print(%q) = %q, %d", program, got, e)
+		}
+	}
 }
 
 type answers struct {
 	numbers [8]uint64
 	decimal [2]uint64
-	errors  [2]Errno
+	errors  [3]Errno
+	printed string
+	place   int
 }
 
-func ask(a, b uint64, text string) answers {
+func ask(a, b uint64, text, program string) answers {
 	var all answers
 	for i, up := range []bool{false, true} {
 		copy(all.numbers[4*i:], []uint64{Add(a, b, up), Mul(a, b, up), Div(a, b, up), Root(a, up)})
 		all.decimal[i], all.errors[i] = Decimal(text, up)
 	}
+	all.printed, all.errors[2], all.place = Print(program)
 	return all
 }
 
@@ -133,8 +158,13 @@ func ask(a, b uint64, text string) answers {
 func TestP2NothingKept(t *testing.T) {
 	numbers := append(everyKind(), scatter(500)...)
 	texts := scatteredTexts()
+	programs := make([]string, len(numbers))
+	c := chance{state: 3}
+	for i := range programs {
+		programs[i] = c.program()
+	}
 	question := func(i int) answers {
-		return ask(numbers[i], numbers[len(numbers)-1-i], texts[2*i])
+		return ask(numbers[i], numbers[len(numbers)-1-i], texts[2*i], programs[i])
 	}
 	first := make([]answers, len(numbers))
 	for i := range numbers {
