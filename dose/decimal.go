@@ -1,7 +1,6 @@
 package dose
 
 import (
-	"math"
 	"math/big"
 	"strconv"
 	"strings"
@@ -55,12 +54,4 @@ func exactly(text string) (*big.Rat, bool) {
 func nearest(decimal string) float64 {
 	near, _ := strconv.ParseFloat(decimal, 64)
 	return near
-}
-
-// missOf has the sign of exact less near.
-func missOf(exact *big.Rat, near float64) float64 {
-	if math.IsInf(near, 0) {
-		return -near
-	}
-	return float64(exact.Cmp(new(big.Rat).SetFloat64(near)))
 }

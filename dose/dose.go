@@ -4,6 +4,7 @@ package dose
 import (
 	"math"
 
+	"dose/body"
 	"dose/program"
 	"dose/round"
 )
@@ -58,8 +59,7 @@ func Decimal(text string, up bool) (uint64, Errno) {
 	if !ok {
 		return 0, ErrForm
 	}
-	near := nearest(text)
-	return bitsOf(round.Directed(near, missOf(exact, near), up)), OK
+	return bitsOf(round.Fraction(exact, nearest(text), up)), OK
 }
 
 // Print writes a program out in one way (P9 to P11).
@@ -72,7 +72,17 @@ func Print(program string) (string, Errno, int) {
 }
 
 // Solve bounds the answers to a program's reads (P12 to P15).
-func Solve(program string) ([]Range, Errno, int) { return nil, OK, 0 }
+func Solve(program string) ([]Range, Errno, int) {
+	said, e, place := parse(program)
+	if e != OK {
+		return nil, e, place
+	}
+	var ranges []Range
+	for _, answer := range body.Answers(said) {
+		ranges = append(ranges, Range{bitsOf(answer.Lo), bitsOf(answer.Hi)})
+	}
+	return ranges, OK, 0
+}
 
 // parse answers what a program says, or what is wrong with it, and where (P9).
 func parse(text string) (*program.Program, Errno, int) {

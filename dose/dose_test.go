@@ -84,16 +84,18 @@ func TestP1EveryInput(t *testing.T) {
 	for _, text := range scatteredTexts() {
 		checkDecimal(t, text)
 		checkPrint(t, text)
-		Solve(text)
+		checkSolve(t, text)
 	}
 	c := chance{state: 2}
-	for range 200 {
-		program := c.program()
-		for at := range len(program) {
-			Print(program[:at])
-			Print(program[at:])
+	for range 100 {
+		for _, program := range []string{c.program(), c.solvable()} {
+			for at := range len(program) {
+				Print(program[:at])
+				Print(program[at:])
+				Solve(program[:at])
+				Solve(program[at:])
+			}
 		}
-		Solve(program)
 	}
 }
 
@@ -116,7 +118,12 @@ func TestP1LongTexts(t *testing.T) {
 			t.Errorf("P1: a program of %d bytes: %q, %d, %d, want ErrLong", len(program), got, e, place)
 		}
 	}
-	if n := testing.AllocsPerRun(100000, func() { Print(great) }); n != 0 {
+	for _, program := range []string{great, strings.Repeat(" ", 601), small + strings.Repeat("\n", 600)} {
+		if got, e, place := Solve(program); len(got) != 0 || e != ErrLong || place != 0 {
+			t.Errorf("P1: a program of %d bytes: %x, %d, %d, want ErrLong", len(program), got, e, place)
+		}
+	}
+	if n := testing.AllocsPerRun(100000, func() { Print(great); Solve(great) }); n != 0 {
 		t.Errorf("P1: %v allocations for a program that is too long", n)
 	}
 }
@@ -133,15 +140,19 @@ func TestP1ErrorsLeaveZero(t *testing.T) {
 		if got, e, _ := Print(program); e == OK || got != "" {
 			t.Errorf("P1: Print(%q) = %q, %d", program, got, e)
 		}
+		if got, e, _ := Solve(program); e == OK || len(got) != 0 {
+			t.Errorf("P1: Solve(%q) = %x, %d", program, got, e)
+		}
 	}
 }
 
 type answers struct {
 	numbers [8]uint64
 	decimal [2]uint64
-	errors  [3]Errno
+	errors  [4]Errno
 	printed string
-	place   int
+	solved  [8]Range
+	places  [2]int
 }
 
 func ask(a, b uint64, text, program string) answers {
@@ -150,7 +161,11 @@ func ask(a, b uint64, text, program string) answers {
 		copy(all.numbers[4*i:], []uint64{Add(a, b, up), Mul(a, b, up), Div(a, b, up), Root(a, up)})
 		all.decimal[i], all.errors[i] = Decimal(text, up)
 	}
-	all.printed, all.errors[2], all.place = Print(program)
+	all.printed, all.errors[2], all.places[0] = Print(program)
+	var solved []Range
+	solved, all.errors[3], all.places[1] = Solve(program)
+	copy(all.solved[:], solved)
+	clear(solved) // an answer is the caller's own
 	return all
 }
 
@@ -161,7 +176,10 @@ func TestP2NothingKept(t *testing.T) {
 	programs := make([]string, len(numbers))
 	c := chance{state: 3}
 	for i := range programs {
-		programs[i] = c.program()
+		programs[i] = c.solvable()
+		if i%4 == 0 {
+			programs[i] = c.program()
+		}
 	}
 	question := func(i int) answers {
 		return ask(numbers[i], numbers[len(numbers)-1-i], texts[2*i], programs[i])

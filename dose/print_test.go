@@ -45,6 +45,7 @@ func checkRefusals(t *testing.T, want Errno, marked []string) {
 			t.Errorf("P9: Print(%q) = %q, %d, %d, want %d at %d", program, got, e, place, want, at)
 		}
 		checkPrint(t, program)
+		checkSolve(t, program)
 	}
 }
 
@@ -362,16 +363,19 @@ func (c *chance) lines() []lineForm {
 	return lines
 }
 
-func TestPrintAgainstReference(t *testing.T) {
-	c := chance{state: 1}
+// checkMany looks at made-up programs, among which each error has its share.
+func checkMany(t *testing.T, seed uint64, count int, check func(*testing.T, string) Errno) {
+	t.Helper()
+	c := chance{state: seed}
 	seen := make(map[Errno]int)
-	for range 40000 {
-		seen[checkPrint(t, c.program())]++
+	for range count {
+		seen[check(t, c.program())]++
 	}
 	for _, e := range []Errno{OK, ErrForm, ErrUnit, ErrNone, ErrZero, ErrTime, ErrStiff} {
-		if seen[e] < 100 {
+		if seen[e] < count/400 {
 			t.Errorf("of the programs only %d made the error %d: %v", seen[e], e, seen)
 		}
 	}
-	t.Log(seen)
 }
+
+func TestPrintAgainstReference(t *testing.T) { checkMany(t, 1, 40000, checkPrint) }

@@ -12,11 +12,23 @@ const (
 	maxReads     = 8
 )
 
-// parser goes through tokens from the left. Behind its first fault it stands
-// still, so that what calls it need not ask after each token.
-type parser struct {
-	rest  []token
-	fault *Fault
+// parser goes through tokens from the left. At its first fault it panics, so
+// that what calls it need not ask after each token: parsed catches that.
+type parser struct{ rest []token }
+
+// parsed answers what tokens say, or the fault at which they were left.
+func parsed(tokens []token) (said *Program, fault *Fault) {
+	defer func() {
+		switch caught := recover().(type) {
+		case nil:
+		case *Fault:
+			said, fault = nil, caught
+		default:
+			panic(caught)
+		}
+	}()
+	p := parser{tokens}
+	return p.program(), nil
 }
 
 func (p *parser) program() *Program {
@@ -121,23 +133,19 @@ func (p *parser) measured(m measure) Number {
 
 func (p *parser) number() Number {
 	next := p.rest[0]
+	p.check(next.kind == number)
 	n := Number{new(big.Rat), next.place}
-	if p.check(next.kind == number) {
-		n.Value.SetString(next.text)
-		p.rest = p.rest[1:]
-	}
+	n.Value.SetString(next.text)
+	p.rest = p.rest[1:]
 	return n
 }
 
-// unit answers the size of a unit. Behind a fault that is 1, since what calls
-// it may divide by it.
+// unit answers the size of a unit.
 func (p *parser) unit(m measure) *big.Rat {
 	u, found := unitNamed(p.rest[0].text)
-	if found && u.measure != m {
+	p.check(found)
+	if u.measure != m {
 		p.refuse(Unit)
-	}
-	if !p.check(found) {
-		return big.NewRat(1, 1)
 	}
 	p.rest = p.rest[1:]
 	return big.NewRat(u.size, 1)
@@ -146,24 +154,18 @@ func (p *parser) unit(m measure) *big.Rat {
 // take goes on behind the next token, which must be one of those.
 func (p *parser) take(texts ...string) token {
 	next := p.rest[0]
-	if p.check(slices.Contains(texts, next.text)) {
-		p.rest = p.rest[1:]
-	}
+	p.check(slices.Contains(texts, next.text))
+	p.rest = p.rest[1:]
 	return next
 }
 
-func (p *parser) sees(text string) bool { return p.fault == nil && p.rest[0].text == text }
+func (p *parser) sees(text string) bool { return p.rest[0].text == text }
 
-// check answers whether the next token can stand where it stands.
-func (p *parser) check(stands bool) bool {
+// check refuses the next token unless it can stand where it stands.
+func (p *parser) check(stands bool) {
 	if !stands {
 		p.refuse(Form)
 	}
-	return p.fault == nil
 }
 
-func (p *parser) refuse(reason Reason) {
-	if p.fault == nil {
-		p.fault = &Fault{reason, p.rest[0].place}
-	}
-}
+func (p *parser) refuse(reason Reason) { panic(&Fault{reason, p.rest[0].place}) }

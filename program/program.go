@@ -81,12 +81,11 @@ type Fault struct {
 // Parse answers what a text says, or why it is no program.
 func Parse(text string) (*Program, *Fault) {
 	tokens := tokensOf(text)
-	p := parser{rest: tokens}
-	said := p.program()
-	if p.fault != nil {
-		return nil, p.fault
+	said, fault := parsed(tokens)
+	if fault == nil {
+		fault = faultOf(said)
 	}
-	if fault := faultOf(said); fault != nil {
+	if fault != nil {
 		return nil, fault
 	}
 	said.tokens = tokens

@@ -4,7 +4,10 @@
 // missed, and steps to the neighbour where that lies on the wrong side.
 package round
 
-import "math"
+import (
+	"math"
+	"math/big"
+)
 
 // Sum answers a + b, rounded down or up.
 func Sum(a, b float64, up bool) float64 {
@@ -43,6 +46,12 @@ func Root(a float64, up bool) float64 {
 		return near
 	}
 	return Directed(near, missOfRoot(a, near), up)
+}
+
+// Fraction answers a fraction, rounded down or up, of which near is the nearest
+// number. (A fraction has no zero with a sign: near may be one.)
+func Fraction(exact *big.Rat, near float64, up bool) float64 {
+	return Directed(near, missOfFraction(exact, near), up)
 }
 
 // Directed answers the number that an exact result is rounded to, down or up:
@@ -113,4 +122,12 @@ func missOfRoot(a, near float64) float64 {
 	}
 	y := math.Ldexp(near, -i/2)
 	return math.FMA(-y, y, x)
+}
+
+// missOfFraction has the sign of exact less near.
+func missOfFraction(exact *big.Rat, near float64) float64 {
+	if math.IsInf(near, 0) {
+		return -near
+	}
+	return float64(exact.Cmp(new(big.Rat).SetFloat64(near)))
 }
